@@ -28,6 +28,25 @@ func (g *guarded[T]) changed() bool {
 	return !slices.Equal(g.memory, g.before)
 }
 
+// guardLists guards each list, and the list of them with its unused capacity.
+func guardLists[T comparable](lists [][]T, spare T) ([][]T, func() bool) {
+	var guards []*guarded[T]
+	outer := make([][]T, 0, len(lists)+4)
+	for _, list := range lists {
+		guards = append(guards, guard(list, spare))
+		outer = append(outer, guards[len(guards)-1].list)
+	}
+	changed := func() bool {
+		for i, g := range guards {
+			if g.changed() || !slices.Equal(outer[i], g.list) {
+				return true
+			}
+		}
+		return slices.ContainsFunc(outer[len(outer):cap(outer)], func(list []T) bool { return list != nil })
+	}
+	return outer, changed
+}
+
 type call struct {
 	name    string
 	reports bool // whether the only result is a bool that never means failure
@@ -37,20 +56,43 @@ type call struct {
 
 func unchangeable() bool { return false }
 
-// overwrite fills a result that is a list, and its unused capacity.
-func overwrite(result any) {
-	switch list := result.(type) {
-	case []impl.Point:
-		list = list[:cap(list)]
-		for i := range list {
-			list[i] = impl.Point{X: -77, Y: -77}
-		}
-	case []int64:
-		list = list[:cap(list)]
-		for i := range list {
-			list[i] = -77
+// overwrite fills the lists of all results, and their unused capacity, each
+// with a value of its own. It reports whether two of them share memory.
+func overwrite(all []any) bool {
+	var points [][]impl.Point
+	var numbers [][]int64
+	for _, result := range all {
+		switch v := result.(type) {
+		case []impl.Point:
+			points = append(points, v)
+		case []int64:
+			numbers = append(numbers, v)
+		case [][]int64:
+			numbers = append(numbers, v[:cap(v)]...)
+			clear(v)
+		case impl.Channel:
+			numbers = append(numbers, v.Top, v.Bottom)
 		}
 	}
+	shared := fill(points, func(i int) impl.Point { return impl.Point{X: -77, Y: -int64(i)} })
+	return fill(numbers, func(i int) int64 { return -77 - int64(i) }) || shared
+}
+
+func fill[T comparable](lists [][]T, value func(i int) T) bool {
+	for i, list := range lists {
+		list = list[:cap(list)]
+		for j := range list {
+			list[j] = value(i)
+		}
+	}
+	for i, list := range lists {
+		for _, item := range list[:cap(list)] {
+			if item != value(i) {
+				return true
+			}
+		}
+	}
+	return false
 }
 
 // isZero reports whether a result is a zero value, or an empty list.
@@ -66,6 +108,10 @@ func isZero(result any) bool {
 		return len(v) == 0
 	case []int64:
 		return len(v) == 0
+	case [][]int64:
+		return len(v) == 0
+	case impl.Channel:
+		return len(v.Top) == 0 && len(v.Bottom) == 0
 	}
 	return false
 }
@@ -92,26 +138,26 @@ func checkCalls(t *testing.T, calls []call) {
 	first := make([]string, len(calls))
 	for i, c := range calls {
 		got := runGuarded(t, c)
-		first[i] = fmt.Sprintf("%.2000v", got)
+		first[i] = fmt.Sprint(got)
 		if got == nil {
 			continue
 		}
 		if ok, is := got[len(got)-1].(bool); is && !ok && !c.reports {
 			for _, result := range got[:len(got)-1] {
 				if !isZero(result) {
-					t.Errorf("%s fails with %.100v", c.name, result)
+					t.Errorf("%s fails with %s", c.name, brief(result))
 				}
 			}
 		}
-		for _, result := range got {
-			overwrite(result)
+		if overwrite(got) {
+			t.Errorf("%s returns two lists that share memory", c.name)
 		}
 		if c.changed() {
 			t.Errorf("%s returns memory of its argument", c.name)
 		}
 	}
 	for i := len(calls) - 1; i >= 0; i-- {
-		if again := fmt.Sprintf("%.2000v", runGuarded(t, calls[i])); again != first[i] {
+		if again := fmt.Sprint(runGuarded(t, calls[i])); again != first[i] {
 			t.Errorf("%s: first %.200s, then %.200s", calls[i].name, first[i], again)
 		}
 	}

@@ -20,6 +20,12 @@ func same(t *testing.T, what string, got, want any) {
 // results makes one list of all results of a call.
 func results(all ...any) []any { return all }
 
+// brief is the beginning of what is printed for a name.
+func brief(all ...any) string {
+	text := fmt.Sprint(all...)
+	return text[:min(len(text), 120)]
+}
+
 // at makes points of pairs of X and Y.
 func at(numbers ...int64) []impl.Point {
 	var list []impl.Point

@@ -45,7 +45,7 @@ func pointListCalls() []call {
 	for _, list := range strangeLists() {
 		g := guard(list, impl.Point{X: 41, Y: 42})
 		add := func(name string, reports bool, run func() []any) {
-			calls = append(calls, call{fmt.Sprintf("%s(%.60v)", name, list), reports, run, g.changed})
+			calls = append(calls, call{name + " of " + brief(list), reports, run, g.changed})
 		}
 		add("ArePoints", true, func() []any { return results(impl.ArePoints(g.list)) })
 		add("IsPath", true, func() []any { return results(impl.IsPath(g.list)) })
@@ -72,7 +72,7 @@ func numberListCalls() []call {
 	for _, list := range lists {
 		g := guard(list, 43)
 		run := func() []any { a, ok := impl.ListText(g.list); return results(a, ok) }
-		calls = append(calls, call{fmt.Sprintf("ListText(%.60v)", list), false, run, g.changed})
+		calls = append(calls, call{"ListText of " + brief(list), false, run, g.changed})
 	}
 	return calls
 }

@@ -38,7 +38,7 @@ func callsOfRows(top, bottom []int64) []call {
 	up, low := guard(top, 43), guard(bottom, 44)
 	changed := func() bool { return up.changed() || low.changed() }
 	add := func(name string, reports bool, run func() []any) {
-		calls = append(calls, call{fmt.Sprintf("%s of %.80v and %.80v", name, top, bottom), reports, run, changed})
+		calls = append(calls, call{name + " of " + brief(top, bottom), reports, run, changed})
 	}
 	add("ValidRiver", true, func() []any { return results(impl.ValidRiver(up.list, low.list)) })
 	add("LeastTracks", false, func() []any { a, ok := impl.LeastTracks(up.list, low.list); return results(a, ok) })
@@ -61,21 +61,8 @@ func callsOfRows(top, bottom []int64) []call {
 func wireCalls() []call {
 	var calls []call
 	add := func(lists ...[]impl.Point) {
-		var guards []*guarded[impl.Point]
-		wires := make([][]impl.Point, 0, len(lists)+4)
-		for _, list := range lists {
-			guards = append(guards, guard(list, impl.Point{X: 41, Y: 42}))
-			wires = append(wires, guards[len(guards)-1].list)
-		}
-		changed := func() bool {
-			for i, g := range guards {
-				if g.changed() || fmt.Sprint(wires[i]) != fmt.Sprint(g.list) {
-					return true
-				}
-			}
-			return slices.ContainsFunc(wires[len(wires):cap(wires)], func(list []impl.Point) bool { return list != nil })
-		}
-		calls = append(calls, call{fmt.Sprintf("AreApart(%.80v)", lists), true, func() []any { return results(impl.AreApart(wires)) }, changed})
+		wires, changed := guardLists(lists, impl.Point{X: 41, Y: 42})
+		calls = append(calls, call{"AreApart of " + brief(lists), true, func() []any { return results(impl.AreApart(wires)) }, changed})
 	}
 	add()
 	add(slices.Repeat([][]impl.Point{at(1, 1)}, 20)...)

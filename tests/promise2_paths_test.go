@@ -54,7 +54,7 @@ func ends(list []impl.Point) []impl.Point {
 // checkPath checks everything that chapter 1 tells of a path.
 func checkPath(t *testing.T, list []impl.Point) {
 	t.Helper()
-	what := fmt.Sprintf("path %.60v", list)
+	what := "path " + brief(list)
 	same(t, what, impl.IsPath(list), true)
 	n, ok := impl.LengthOf(list)
 	same(t, "length of "+what, results(n, ok), results(len(list)-1, true))
@@ -69,7 +69,7 @@ func checkPath(t *testing.T, list []impl.Point) {
 // checkNoPath checks that the functions with a path fail.
 func checkNoPath(t *testing.T, list []impl.Point) {
 	t.Helper()
-	what := fmt.Sprintf("no path %.60v", list)
+	what := "no path " + brief(list)
 	same(t, what, impl.IsPath(list), false)
 	n, ok := impl.LengthOf(list)
 	same(t, "length of "+what, results(n, ok), results(0, false))

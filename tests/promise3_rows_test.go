@@ -12,7 +12,7 @@ import (
 // rows fail then, though tracks and wires are in range.
 func checkNoRiver(t *testing.T, top, bottom []int64) {
 	t.Helper()
-	what := fmt.Sprintf("no river %.60v %.60v", top, bottom)
+	what := "no river " + brief(top, bottom)
 	same(t, what, results(impl.ValidRiver(top, bottom), impl.FitsRiver(top, bottom, 20)), results(false, false))
 	n, ok := impl.LeastTracks(top, bottom)
 	same(t, "least tracks of "+what, results(n, ok), results(0, false))

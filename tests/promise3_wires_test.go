@@ -205,7 +205,7 @@ func checkApart(t *testing.T, paths ...[]impl.Point) {
 	for _, list := range paths {
 		wires = append(wires, ends(list))
 	}
-	same(t, fmt.Sprintf("apart %.200v", paths), impl.AreApart(wires), apart(paths...))
+	same(t, "apart "+brief(paths), impl.AreApart(wires), apart(paths...))
 }
 
 func TestPromise3AreApart(t *testing.T) {
