@@ -72,6 +72,9 @@ func overwrite(all []any) bool {
 			clear(v)
 		case impl.Channel:
 			numbers = append(numbers, v.Top, v.Bottom)
+		case impl.Maze:
+			numbers = append(numbers, v.Cells[:cap(v.Cells)]...)
+			clear(v.Cells)
 		}
 	}
 	shared := fill(points, func(i int) impl.Point { return impl.Point{X: -77, Y: -int64(i)} })
@@ -112,6 +115,8 @@ func isZero(result any) bool {
 		return len(v) == 0
 	case impl.Channel:
 		return len(v.Top) == 0 && len(v.Bottom) == 0
+	case impl.Maze:
+		return len(v.Cells) == 0
 	}
 	return false
 }
