@@ -111,7 +111,8 @@ func checkBlocks(t *testing.T, m impl.Maze, from, to impl.Point, most int) []imp
 }
 
 // checkMoreBlocks checks blocks that are known to be more than so many: that
-// they block, and that no cell before them is needless.
+// they are open cells that block, and as many as the ways apart. It does not
+// tell which ones of several sets they are.
 func checkMoreBlocks(t *testing.T, m impl.Maze, from, to impl.Point, most int) {
 	t.Helper()
 	what := fmt.Sprint(" from ", from, " to ", to, " in ", plainMaze(m))
