@@ -318,6 +318,8 @@ func ListText(list []int64) (string, bool) {
 
 func isItem(n int64) bool { return n >= -MaxValue && n <= MaxValue }
 
+func isAmount(n int64) bool { return n >= 0 && n <= MaxValue }
+
 func areItems(list []int64) bool {
 	if len(list) > MaxItems {
 		return false

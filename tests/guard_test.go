@@ -61,12 +61,15 @@ func unchangeable() bool { return false }
 func overwrite(all []any) bool {
 	var points [][]impl.Point
 	var numbers [][]int64
+	var merges [][]impl.Merge
 	for _, result := range all {
 		switch v := result.(type) {
 		case []impl.Point:
 			points = append(points, v)
 		case []int64:
 			numbers = append(numbers, v)
+		case []impl.Merge:
+			merges = append(merges, v)
 		case [][]int64:
 			numbers = append(numbers, v[:cap(v)]...)
 			clear(v)
@@ -78,6 +81,7 @@ func overwrite(all []any) bool {
 		}
 	}
 	shared := fill(points, func(i int) impl.Point { return impl.Point{X: -77, Y: -int64(i)} })
+	shared = fill(merges, func(i int) impl.Merge { return impl.Merge{Delay: -77 - int64(i)} }) || shared
 	return fill(numbers, func(i int) int64 { return -77 - int64(i) }) || shared
 }
 
@@ -112,6 +116,12 @@ func isZero(result any) bool {
 	case []int64:
 		return len(v) == 0
 	case [][]int64:
+		return len(v) == 0
+	case impl.Region:
+		return v == impl.Region{}
+	case impl.Merge:
+		return v == impl.Merge{}
+	case []impl.Merge:
 		return len(v) == 0
 	case impl.Channel:
 		return len(v.Top) == 0 && len(v.Bottom) == 0
