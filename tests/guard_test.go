@@ -78,6 +78,10 @@ func overwrite(all []any) bool {
 		case impl.Maze:
 			numbers = append(numbers, v.Cells[:cap(v.Cells)]...)
 			clear(v.Cells)
+		case impl.Wiring:
+			numbers = append(numbers, slices.Concat(v.Crossings[:cap(v.Crossings)], v.Joints[:cap(v.Joints)], [][]int64{v.Fixed})...)
+			clear(v.Crossings)
+			clear(v.Joints)
 		}
 	}
 	shared := fill(points, func(i int) impl.Point { return impl.Point{X: -77, Y: -int64(i)} })
@@ -127,6 +131,8 @@ func isZero(result any) bool {
 		return len(v.Top) == 0 && len(v.Bottom) == 0
 	case impl.Maze:
 		return len(v.Cells) == 0
+	case impl.Wiring:
+		return v.Segments == 0 && len(v.Crossings) == 0 && len(v.Joints) == 0 && len(v.Fixed) == 0
 	}
 	return false
 }
