@@ -78,6 +78,13 @@ func overwrite(all []any) bool {
 		case impl.Maze:
 			numbers = append(numbers, v.Cells[:cap(v.Cells)]...)
 			clear(v.Cells)
+		case [][]impl.Point:
+			points = append(points, v[:cap(v)]...)
+			clear(v)
+		case impl.Grid:
+			numbers = append(numbers, slices.Concat(v.Across[:cap(v.Across)], v.Up[:cap(v.Up)])...)
+			clear(v.Across)
+			clear(v.Up)
 		case impl.Wiring:
 			numbers = append(numbers, slices.Concat(v.Crossings[:cap(v.Crossings)], v.Joints[:cap(v.Joints)], [][]int64{v.Fixed})...)
 			clear(v.Crossings)
@@ -131,6 +138,10 @@ func isZero(result any) bool {
 		return len(v.Top) == 0 && len(v.Bottom) == 0
 	case impl.Maze:
 		return len(v.Cells) == 0
+	case [][]impl.Point:
+		return len(v) == 0
+	case impl.Grid:
+		return len(v.Across) == 0 && len(v.Up) == 0
 	case impl.Wiring:
 		return v.Segments == 0 && len(v.Crossings) == 0 && len(v.Joints) == 0 && len(v.Fixed) == 0
 	}
