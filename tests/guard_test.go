@@ -62,6 +62,8 @@ func overwrite(all []any) bool {
 	var points [][]impl.Point
 	var numbers [][]int64
 	var merges [][]impl.Merge
+	var rules [][]impl.Rule
+	var shapes [][]impl.Shape
 	for _, result := range all {
 		switch v := result.(type) {
 		case []impl.Point:
@@ -89,10 +91,16 @@ func overwrite(all []any) bool {
 			numbers = append(numbers, slices.Concat(v.Crossings[:cap(v.Crossings)], v.Joints[:cap(v.Joints)], [][]int64{v.Fixed})...)
 			clear(v.Crossings)
 			clear(v.Joints)
+		case impl.Press:
+			rules = append(rules, v.Rules)
+		case []impl.Shape:
+			shapes = append(shapes, v)
 		}
 	}
 	shared := fill(points, func(i int) impl.Point { return impl.Point{X: -77, Y: -int64(i)} })
 	shared = fill(merges, func(i int) impl.Merge { return impl.Merge{Delay: -77 - int64(i)} }) || shared
+	shared = fill(rules, func(i int) impl.Rule { return impl.Rule{From: -77, To: -int64(i)} }) || shared
+	shared = fill(shapes, func(i int) impl.Shape { return impl.Shape{X: -77, Y: -int64(i)} }) || shared
 	return fill(numbers, func(i int) int64 { return -77 - int64(i) }) || shared
 }
 
@@ -144,6 +152,10 @@ func isZero(result any) bool {
 		return len(v.Across) == 0 && len(v.Up) == 0
 	case impl.Wiring:
 		return v.Segments == 0 && len(v.Crossings) == 0 && len(v.Joints) == 0 && len(v.Fixed) == 0
+	case impl.Press:
+		return v.Parts == 0 && len(v.Rules) == 0
+	case []impl.Shape:
+		return len(v) == 0
 	}
 	return false
 }
