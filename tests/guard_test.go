@@ -64,6 +64,7 @@ func overwrite(all []any) bool {
 	var merges [][]impl.Merge
 	var rules [][]impl.Rule
 	var shapes [][]impl.Shape
+	var texts [][]string
 	for _, result := range all {
 		switch v := result.(type) {
 		case []impl.Point:
@@ -95,12 +96,19 @@ func overwrite(all []any) bool {
 			rules = append(rules, v.Rules)
 		case []impl.Shape:
 			shapes = append(shapes, v)
+		case []string:
+			texts = append(texts, v)
+		case impl.Desk:
+			texts = append(texts, v.Names)
+			points = append(points, v.Lists[:cap(v.Lists)]...)
+			clear(v.Lists)
 		}
 	}
 	shared := fill(points, func(i int) impl.Point { return impl.Point{X: -77, Y: -int64(i)} })
 	shared = fill(merges, func(i int) impl.Merge { return impl.Merge{Delay: -77 - int64(i)} }) || shared
 	shared = fill(rules, func(i int) impl.Rule { return impl.Rule{From: -77, To: -int64(i)} }) || shared
 	shared = fill(shapes, func(i int) impl.Shape { return impl.Shape{X: -77, Y: -int64(i)} }) || shared
+	shared = fill(texts, func(i int) string { return fmt.Sprint("text ", i) }) || shared
 	return fill(numbers, func(i int) int64 { return -77 - int64(i) }) || shared
 }
 
@@ -156,6 +164,10 @@ func isZero(result any) bool {
 		return v.Parts == 0 && len(v.Rules) == 0
 	case []impl.Shape:
 		return len(v) == 0
+	case []string:
+		return len(v) == 0
+	case impl.Desk:
+		return len(v.Names) == 0 && len(v.Lists) == 0
 	}
 	return false
 }

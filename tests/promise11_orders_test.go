@@ -267,7 +267,7 @@ func TestPromise11BetweenByHand(t *testing.T) {
 		{four, 0, 1, "0 2 3 1", 7, true},
 		{four, 0, 2, "0 1 3 2", 3, true},
 		{four, 3, 2, "3 1 0 2", 7, true},
-		{four, 1, 2, "1 0 3 2", 11, true}, // the one between 11 and 15
+		{four, 1, 2, "1 0 3 2", 11, true},                   // the one between 11 and 15
 		{coupled(3, "0 1000 0"), 1, 2, "1 0 2", 1000, true}, // 0 1 2 has the coupling 0
 		{coupled(3, "0 1000 0"), 0, 1, "0 2 1", 1000, true},
 		{evenBundle(9, 0), 8, 0, "8 1 2 3 4 5 6 7 0", 0, true},
